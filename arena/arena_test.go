@@ -12,6 +12,12 @@ import (
 // kinds are those that can be made.
 var kinds = []int{api.NodeElement, api.NodeText, api.NodeComment, api.NodeDoctype}
 
+// document is node 0 with those kids; its spans are written out, so that they hang on nothing else.
+func document(kids ...api.Node) api.Node {
+	none := api.Span{From: -1, To: -1}
+	return api.Node{Kind: api.NodeDocument, Start: none, End: none, Kids: kids}
+}
+
 func element(name string) api.Node {
 	return api.Node{Kind: api.NodeElement, Name: name, Start: api.None(), End: api.None()}
 }
@@ -146,8 +152,8 @@ func TestNew(t *testing.T) {
 	if a == nil || a.Len() != 1 || a.Parent(0) != -1 || len(a.Kids(0)) != 0 {
 		t.Fatalf("%+v", a)
 	}
-	checkNode(t, a, 0, api.Node{Kind: api.NodeDocument})
-	checkTree(t, a, 0, api.Node{Kind: api.NodeDocument})
+	checkNode(t, a, 0, document())
+	checkTree(t, a, 0, document())
 	b := New()
 	a.Make(element("p"))
 	put(t, a, 0, 1, -1)

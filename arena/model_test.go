@@ -16,7 +16,7 @@ type model struct {
 }
 
 func newModel() *model {
-	return &model{nodes: make([]api.Node, 1), parents: []int{-1}, kids: make([][]int, 1)}
+	return &model{nodes: []api.Node{document()}, parents: []int{-1}, kids: make([][]int, 1)}
 }
 
 func (m *model) Make(n api.Node) int {

@@ -54,7 +54,7 @@ func TestParentAndKids(t *testing.T) {
 
 func TestGet(t *testing.T) {
 	a := forest(t)
-	checkNode(t, a, 0, api.Node{Kind: api.NodeDocument})
+	checkNode(t, a, 0, document())
 	for id, kind := range []int{0, api.NodeElement, api.NodeDoctype, api.NodeText, api.NodeElement, api.NodeComment, api.NodeElement, api.NodeElement, api.NodeText} {
 		if id > 0 {
 			checkNode(t, a, id, node(id, kind))
@@ -72,7 +72,7 @@ func TestTree(t *testing.T) {
 	five := node(5, api.NodeComment)
 	four := node(4, api.NodeElement, five)
 	one := node(1, api.NodeElement, node(3, api.NodeText), four)
-	checkTree(t, a, 0, api.Node{Kind: api.NodeDocument, Kids: []api.Node{node(2, api.NodeDoctype), one}})
+	checkTree(t, a, 0, document(node(2, api.NodeDoctype), one))
 	checkTree(t, a, 1, one)
 	checkTree(t, a, 2, node(2, api.NodeDoctype))
 	checkTree(t, a, 3, node(3, api.NodeText))
